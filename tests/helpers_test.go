@@ -1,0 +1,44 @@
+package tests
+
+import (
+	"math"
+	"slices"
+	"testing"
+)
+
+// edgeNumbers are whole numbers at, just within and just beyond every limit of chapter 1.
+func edgeNumbers() []int {
+	return []int{
+		math.MinInt, math.MinInt + 1, -2000000000, -1000000001, -1000000000, -999999999,
+		-1000001, -1000000, -999999, -500001, -500000, -50001, -50000, -21, -20, -2, -1,
+		0, 1, 2, 3, 5, 19, 20, 21, 50000, 50001, 500000, 500001,
+		999999, 1000000, 1000001, 999999999, 1000000000, 1000000001, 2000000000, math.MaxInt - 1, math.MaxInt,
+	}
+}
+
+// repeated returns a list of n times the same number.
+func repeated(n int, number int) []int {
+	return slices.Repeat([]int{number}, n)
+}
+
+// withSpare returns a list with the same elements, and spare capacity behind them that is filled with one number.
+func withSpare(l []int, spare int) []int {
+	full := append(slices.Clone(l), repeated(4, spare)...)
+	return full[:len(l)]
+}
+
+// checkNumber fails the test unless a call gave the expected number and success.
+func checkNumber(t *testing.T, call string, got int, gotOK bool, want int, wantOK bool) {
+	t.Helper()
+	if got != want || gotOK != wantOK {
+		t.Errorf("%s: got %d, %t; want %d, %t", call, got, gotOK, want, wantOK)
+	}
+}
+
+// checkList fails the test unless a call gave the expected list and success; nil and an empty list are the same.
+func checkList(t *testing.T, call string, got []int, gotOK bool, want []int, wantOK bool) {
+	t.Helper()
+	if !slices.Equal(got, want) || gotOK != wantOK {
+		t.Errorf("%s: got %v, %t; want %v, %t", call, got, gotOK, want, wantOK)
+	}
+}
