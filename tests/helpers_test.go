@@ -27,6 +27,23 @@ func withSpare(l []int, spare int) []int {
 	return full[:len(l)]
 }
 
+// textsOf returns all texts of up to so many pieces, one behind the other, but for the empty one.
+func textsOf(pieces []string, count int) []string {
+	var texts []string
+	layer := []string{""}
+	for range count {
+		var next []string
+		for _, s := range layer {
+			for _, piece := range pieces {
+				next = append(next, s+piece)
+			}
+		}
+		texts = append(texts, next...)
+		layer = next
+	}
+	return texts
+}
+
 // checkNumber fails the test unless a call gave the expected number and success.
 func checkNumber(t *testing.T, call string, got int, gotOK bool, want int, wantOK bool) {
 	t.Helper()

@@ -111,18 +111,7 @@ func TestMeanOfNumbersIsTotalAndModifiesNothing(t *testing.T) {
 
 func TestParseFracIsTotal(t *testing.T) {
 	texts := append(nearlyFracTexts(), strings.Repeat("9", 100000), strings.Repeat("/", 100000), strings.Repeat("\x00", 50), "1/"+strings.Repeat("-", 100000))
-	signs := "-+ 0129/\x00\xff_"
-	layer := []string{""}
-	for range 4 {
-		var next []string
-		for _, s := range layer {
-			for _, b := range []byte(signs) {
-				next = append(next, s+string([]byte{b}))
-			}
-		}
-		texts = append(texts, next...)
-		layer = next
-	}
+	texts = append(texts, textsOf([]string{"-", "+", " ", "0", "1", "2", "9", "/", "\x00", "\xff", "_"}, 4)...)
 	read := 0
 	for _, s := range texts {
 		f, ok := impl.ParseFrac(s)
