@@ -59,3 +59,30 @@ func checkList(t *testing.T, call string, got []int, gotOK bool, want []int, wan
 		t.Errorf("%s: got %v, %t; want %v, %t", call, got, gotOK, want, wantOK)
 	}
 }
+
+// checkNewList makes one call twice, changes one result and then the argument, and fails the test if the argument or the other result changes with them.
+// It tells whether the call succeeded.
+func checkNewList(t *testing.T, name string, l []int, call func(argument []int) ([]int, bool)) bool {
+	t.Helper()
+	argument := withSpare(l, 77)
+	result, ok := call(argument)
+	if !ok {
+		return false
+	}
+	other, _ := call(argument)
+	want := slices.Clone(result)
+	whole := result[:cap(result)]
+	for i := range whole {
+		whole[i] = 123
+	}
+	if !isUntouched(argument, l, 77) || !slices.Equal(other, want) {
+		t.Errorf("%s%v: the result shares memory", name, l)
+	}
+	for i := range argument {
+		argument[i] = 55
+	}
+	if !slices.Equal(other, want) {
+		t.Errorf("%s%v: the result changes with the argument", name, l)
+	}
+	return true
+}

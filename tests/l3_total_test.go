@@ -104,27 +104,9 @@ func TestPolysOfResultsAreNew(t *testing.T) {
 	for name, call := range polyCallsWithLists() {
 		lists := 0
 		for _, p := range goodPolys() {
-			for _, n := range []int{0, 1, 2} {
-				argument := withSpare(p, 77)
-				result, ok := call(argument, argument, n)
-				if !ok {
-					continue
-				}
-				lists++
-				other, _ := call(argument, argument, n)
-				want := slices.Clone(result)
-				whole := result[:cap(result)]
-				for i := range whole {
-					whole[i] = 123
-				}
-				if !isUntouched(argument, p, 77) || !slices.Equal(other, want) {
-					t.Errorf("%s%v %d: the result shares memory", name, p, n)
-				}
-				for i := range argument {
-					argument[i] = 55
-				}
-				if !slices.Equal(other, want) {
-					t.Errorf("%s%v %d: the result changes with the argument", name, p, n)
+			for n := range 3 {
+				if checkNewList(t, name, p, func(argument []int) ([]int, bool) { return call(argument, argument, n) }) {
+					lists++
 				}
 			}
 		}
