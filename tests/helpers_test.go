@@ -21,10 +21,22 @@ func repeated(n int, number int) []int {
 	return slices.Repeat([]int{number}, n)
 }
 
-// withSpare returns a list with the same elements, and spare capacity behind them that is filled with one number.
-func withSpare(l []int, spare int) []int {
-	full := append(slices.Clone(l), repeated(4, spare)...)
+// withSpare returns a list with the same elements, and spare capacity behind them that is filled with one element.
+func withSpare[T any](l []T, spare T) []T {
+	full := append(slices.Clone(l), slices.Repeat([]T{spare}, 4)...)
 	return full[:len(l)]
+}
+
+// isUntouched reports whether a list made by withSpare is as it was made.
+func isUntouched[T comparable](l []T, elements []T, spare T) bool {
+	behind := l[len(l) : len(elements)+4]
+	return slices.Equal(l, elements) && slices.Equal(behind, slices.Repeat([]T{spare}, 4))
+}
+
+func fill[T any](l []T, with T) {
+	for i := range l {
+		l[i] = with
+	}
 }
 
 // textsOf returns all texts of up to so many pieces, one behind the other, but for the empty one.
@@ -53,34 +65,29 @@ func checkNumber(t *testing.T, call string, got int, gotOK bool, want int, wantO
 }
 
 // checkList fails the test unless a call gave the expected list and success; nil and an empty list are the same.
-func checkList(t *testing.T, call string, got []int, gotOK bool, want []int, wantOK bool) {
+func checkList[T comparable](t *testing.T, call string, got []T, gotOK bool, want []T, wantOK bool) {
 	t.Helper()
 	if !slices.Equal(got, want) || gotOK != wantOK {
 		t.Errorf("%s: got %v, %t; want %v, %t", call, got, gotOK, want, wantOK)
 	}
 }
 
-// checkNewList makes one call twice, changes one result and then the argument, and fails the test if the argument or the other result changes with them.
+// checkNewList makes one call twice, changes one result and then the argument to two elements that are nowhere else, and fails the test if the argument or the other result changes with them.
 // It tells whether the call succeeded.
-func checkNewList(t *testing.T, name string, l []int, call func(argument []int) ([]int, bool)) bool {
+func checkNewList[T comparable](t *testing.T, name string, l []T, changes [2]T, call func(argument []T) ([]T, bool)) bool {
 	t.Helper()
-	argument := withSpare(l, 77)
+	argument := withSpare(l, changes[1])
 	result, ok := call(argument)
 	if !ok {
 		return false
 	}
 	other, _ := call(argument)
 	want := slices.Clone(result)
-	whole := result[:cap(result)]
-	for i := range whole {
-		whole[i] = 123
-	}
-	if !isUntouched(argument, l, 77) || !slices.Equal(other, want) {
+	fill(result[:cap(result)], changes[0])
+	if !isUntouched(argument, l, changes[1]) || !slices.Equal(other, want) {
 		t.Errorf("%s%v: the result shares memory", name, l)
 	}
-	for i := range argument {
-		argument[i] = 55
-	}
+	fill(argument, changes[1])
 	if !slices.Equal(other, want) {
 		t.Errorf("%s%v: the result changes with the argument", name, l)
 	}

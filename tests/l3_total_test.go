@@ -105,7 +105,7 @@ func TestPolysOfResultsAreNew(t *testing.T) {
 		lists := 0
 		for _, p := range goodPolys() {
 			for n := range 3 {
-				if checkNewList(t, name, p, func(argument []int) ([]int, bool) { return call(argument, argument, n) }) {
+				if checkNewList(t, name, p, [2]int{123, 77}, func(argument []int) ([]int, bool) { return call(argument, argument, n) }) {
 					lists++
 				}
 			}

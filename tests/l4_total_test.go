@@ -93,7 +93,7 @@ func TestListsOfRootsAreNew(t *testing.T) {
 	for name, call := range polyListsOfRoots() {
 		lists := 0
 		for _, p := range append(goodPolys(), bentPolys()...) {
-			if checkNewList(t, name, p, func(argument []int) ([]int, bool) { return call(argument, argument, 2) }) {
+			if checkNewList(t, name, p, [2]int{123, 77}, func(argument []int) ([]int, bool) { return call(argument, argument, 2) }) {
 				lists++
 			}
 		}

@@ -81,18 +81,6 @@ func numbersOfPoints(l []impl.Point) []int {
 	return numbers
 }
 
-// withSpareTerms returns a list with the same terms, and spare capacity behind them that is filled with one term.
-func withSpareTerms(l []impl.Term, spare impl.Term) []impl.Term {
-	full := append(slices.Clone(l), spare, spare, spare)
-	return full[:len(l)]
-}
-
-// areUntouched reports whether a list made by withSpareTerms is as it was made.
-func areUntouched(l []impl.Term, terms []impl.Term, spare impl.Term) bool {
-	behind := l[len(l) : len(terms)+3]
-	return slices.Equal(l, terms) && slices.Equal(behind, []impl.Term{spare, spare, spare})
-}
-
 // checkPlaneCall makes one call with nothing behind its lists, and then with two different terms behind them.
 func checkPlaneCall(t *testing.T, name string, call planeCall, l []impl.Term, m []impl.Term, x int, y int) {
 	t.Helper()
@@ -101,11 +89,11 @@ func checkPlaneCall(t *testing.T, name string, call planeCall, l []impl.Term, m 
 		t.Errorf("%s%v%v %d %d fails with %v", name, l, m, x, y, first)
 	}
 	for _, spare := range []impl.Term{{I: 5, J: 1, C: -most}, {I: -1, J: 9, C: 77}} {
-		a, b := withSpareTerms(l, spare), withSpareTerms(m, spare)
+		a, b := withSpare(l, spare), withSpare(m, spare)
 		if got := call(a, b, x, y); !got.equals(first) {
 			t.Errorf("%s%v%v %d %d depends on what is behind the lists: %v, %v", name, l, m, x, y, first, got)
 		}
-		if !areUntouched(a, l, spare) || !areUntouched(b, m, spare) {
+		if !isUntouched(a, l, spare) || !isUntouched(b, m, spare) {
 			t.Errorf("%s%v%v %d %d changes an argument", name, l, m, x, y)
 		}
 	}
@@ -139,37 +127,17 @@ func TestPlaneCallsTakeAllNumbers(t *testing.T) {
 
 // Both arguments are one and the same list here: a call neither changes it nor gives out a part of it.
 func TestPlanesOfResultsAreNew(t *testing.T) {
-	spare := impl.Term{I: 1, J: 2, C: 77}
-	other := impl.Term{I: 9, J: 9, C: 99}
+	changes := [2]impl.Term{{I: 9, J: 9, C: 99}, {I: 1, J: 2, C: 77}}
 	for name, call := range callsWithPlanes() {
 		lists := 0
 		for _, l := range goodPlanes() {
-			argument := withSpareTerms(l, spare)
-			result, ok := call(argument, argument, 0, 0)
-			again, _ := call(argument, argument, 0, 0)
-			if !ok {
-				continue
-			}
-			lists++
-			want := slices.Clone(result)
-			fillTerms(result[:cap(result)], other)
-			if !areUntouched(argument, l, spare) || !slices.Equal(again, want) {
-				t.Errorf("%s%v: the result shares memory", name, l)
-			}
-			fillTerms(argument, other)
-			if !slices.Equal(again, want) {
-				t.Errorf("%s%v: the result changes with the argument", name, l)
+			if checkNewList(t, name, l, changes, func(argument []impl.Term) ([]impl.Term, bool) { return call(argument, argument, 0, 0) }) {
+				lists++
 			}
 		}
 		if lists < 100 {
 			t.Error(name, "succeeds too seldom:", lists)
 		}
-	}
-}
-
-func fillTerms(l []impl.Term, with impl.Term) {
-	for n := range l {
-		l[n] = with
 	}
 }
 
@@ -181,7 +149,7 @@ func TestSumsWithTermsOfOneSideAreNew(t *testing.T) {
 			if !ok {
 				t.Error("fails", pair)
 			}
-			fillTerms(result, impl.Term{I: 9})
+			fill(result, impl.Term{I: 9})
 			if !slices.Equal(short, plane(0, 0, 5)) || !slices.Equal(long, plane(0, 1, 3, 1, 0, 4, 2, 0, 1)) {
 				t.Error("the result shares memory with an argument:", pair)
 			}
@@ -225,6 +193,6 @@ func TestParsePlaneIsTotal(t *testing.T) {
 func TestParsedPlanesAreNew(t *testing.T) {
 	first, _ := impl.ParsePlane("0:0,0;-2:0,1;")
 	second, ok := impl.ParsePlane("0:0,0;-2:0,1;")
-	fillTerms(first, impl.Term{I: 9})
+	fill(first, impl.Term{I: 9})
 	checkPlane(t, "ParsePlane", second, ok, plane(0, 0, 0, 0, 1, -2), true)
 }
