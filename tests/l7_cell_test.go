@@ -47,18 +47,24 @@ func allIndices(l []impl.Term) []int {
 	return indices
 }
 
-// leastWhereEqual returns the terms with the least value at the place where the values of three terms are equal, or nil if there is not one such place.
-func leastWhereEqual(l []impl.Term, a impl.Term, b impl.Term, c impl.Term) []int {
-	// The place is x/d, y/d by Cramer's rule, so that all values are compared d times.
+// placeWhereEqual returns x, y and d so that the values of three terms are equal at x/d, y/d by Cramer's rule; d is 0 if there is not one such place, and positive otherwise.
+func placeWhereEqual(a impl.Term, b impl.Term, c impl.Term) (int, int, int) {
 	d := (b.I-a.I)*(c.J-a.J) - (c.I-a.I)*(b.J-a.J)
 	x := (a.C-b.C)*(c.J-a.J) - (a.C-c.C)*(b.J-a.J)
 	y := (b.I-a.I)*(a.C-c.C) - (c.I-a.I)*(a.C-b.C)
+	if d < 0 {
+		return -x, -y, -d
+	}
+	return x, y, d
+}
+
+// leastWhereEqual returns the terms with the least value at the place where the values of three terms are equal, or nil if there is not one such place.
+func leastWhereEqual(l []impl.Term, a impl.Term, b impl.Term, c impl.Term) []int {
+	x, y, d := placeWhereEqual(a, b, c)
 	if d == 0 {
 		return nil
 	}
-	if d < 0 {
-		d, x, y = -d, -x, -y
-	}
+	// All values are compared d times.
 	var values []int
 	for _, t := range l {
 		values = append(values, t.C*d+t.I*x+t.J*y)
