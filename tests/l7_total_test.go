@@ -108,37 +108,50 @@ func TestCellsDoNotReadBehindTheList(t *testing.T) {
 }
 
 // checkNewLists makes one call twice and fills each list of one result, with all the room behind it, with a number of its own: no other list may change with it, and the argument neither.
-// It tells how many lists there were.
-func checkNewLists(t *testing.T, name string, l []impl.Term, call func(l []impl.Term) ([][]int, bool)) int {
+// The changes are two elements that are nowhere else. It tells how many lists there were.
+func checkNewLists[T comparable](t *testing.T, name string, l []T, changes [2]T, call func(l []T) ([][]int, bool)) int {
 	t.Helper()
-	spare := impl.Term{I: 9, J: 9, C: 99}
-	argument := withSpare(l, spare)
-	result, _ := call(argument)
-	other, _ := call(argument)
+	argument := withSpare(l, changes[0])
+	result, isResult := call(argument)
+	other, isOther := call(argument)
 	want, _ := call(slices.Clone(l))
 	lists := result[:cap(result)]
+	checkFilled := func() {
+		t.Helper()
+		for n, list := range result {
+			if !slices.Equal(list, repeated(len(list), -1-n)) {
+				t.Errorf("%s%v: two lists of the result share memory: %v", name, l, result)
+			}
+		}
+	}
 	for n := range lists {
 		fill(lists[n][:cap(lists[n])], -1-n)
 	}
-	for n, list := range result {
-		if !slices.Equal(list, repeated(len(list), -1-n)) {
-			t.Errorf("%s%v: two lists of the result share memory: %v", name, l, result)
-		}
+	checkFilled()
+	// Backwards, the room behind a list would reach into lists that are filled already.
+	for n := range slices.Backward(lists) {
+		fill(lists[n][:cap(lists[n])], -1-n)
 	}
+	checkFilled()
 	fill(lists, []int{77})
-	if !isUntouched(argument, l, spare) {
+	if !isUntouched(argument, l, changes[0]) {
 		t.Errorf("%s%v: the argument changes with the result", name, l)
 	}
-	fill(argument, impl.Term{I: 5, J: 1, C: 77})
-	checkLists(t, name+" after changes", other, true, want, true)
+	fill(argument, changes[1])
+	checkLists(t, name+" after changes", other, isOther, want, isResult)
 	return len(result)
+}
+
+// changedTerms returns two terms that are in no polynomial of these tests.
+func changedTerms() [2]impl.Term {
+	return [2]impl.Term{{I: 9, J: 9, C: 99}, {I: 5, J: 1, C: 77}}
 }
 
 func TestCellsAndEdgesOfResultsAreNew(t *testing.T) {
 	for name, call := range callsWithLists() {
 		lists := 0
 		for _, l := range manySubdivided() {
-			lists += checkNewLists(t, name, l, call)
+			lists += checkNewLists(t, name, l, changedTerms(), call)
 		}
 		if lists < 1000 {
 			t.Error(name, "has too few lists:", lists)

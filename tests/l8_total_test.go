@@ -127,7 +127,7 @@ func TestSegmentsRaysAndEndsOfResultsAreNew(t *testing.T) {
 		for _, l := range manyCurved() {
 			// A curve without vertices has no ends to look at.
 			if _, ok := call(l, 0); ok {
-				lists += checkNewLists(t, name, l, func(l []impl.Term) ([][]int, bool) { return call(l, 0) })
+				lists += checkNewLists(t, name, l, changedTerms(), func(l []impl.Term) ([][]int, bool) { return call(l, 0) })
 			}
 		}
 		if lists < 1000 {
