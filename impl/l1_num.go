@@ -1,6 +1,9 @@
 package impl
 
-import "strconv"
+import (
+	"strconv"
+	"strings"
+)
 
 const MaxNumber = 1000000
 const Infinity = 1000000000
@@ -203,4 +206,29 @@ func ParseNumber(s string) (int, bool) {
 		return 0, false
 	}
 	return n, true
+}
+
+// textOfNumbers returns the texts of all numbers of a list with the same mark between them.
+func textOfNumbers(l []int, mark string) string {
+	texts := make([]string, len(l))
+	for i, n := range l {
+		// Each element of a valid list has a text.
+		texts[i], _ = NumberText(n)
+	}
+	return strings.Join(texts, mark)
+}
+
+// parseNumbers reads a list of at most so many numbers with the same mark between them.
+func parseNumbers(s string, mark string, most int) ([]int, bool) {
+	// The last text holds all that is left: if there are too many, it is no number.
+	texts := strings.SplitN(s, mark, most)
+	l := make([]int, len(texts))
+	for i, text := range texts {
+		n, ok := ParseNumber(text)
+		if !ok {
+			return nil, false
+		}
+		l[i] = n
+	}
+	return l, true
 }

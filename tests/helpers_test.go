@@ -33,6 +33,35 @@ func isUntouched[T comparable](l []T, elements []T, spare T) bool {
 	return slices.Equal(l, elements) && slices.Equal(behind, slices.Repeat([]T{spare}, 4))
 }
 
+// clippedLists returns lists with the same elements and with nothing behind each of them.
+func clippedLists[T any](lists [][]T) [][]T {
+	clipped := make([][]T, len(lists))
+	for n, l := range lists {
+		clipped[n] = slices.Clip(slices.Clone(l))
+	}
+	return clipped
+}
+
+// withSpareLists returns lists with the same elements, with a spare one behind each of them and in lists behind the last one.
+func withSpareLists[T any](lists [][]T, spare T) [][]T {
+	inner := make([][]T, len(lists))
+	for n, l := range lists {
+		inner[n] = withSpare(l, spare)
+	}
+	return withSpare(inner, []T{spare})
+}
+
+// areUntouched reports whether lists made by withSpareLists are as they were made.
+func areUntouched[T comparable](l [][]T, lists [][]T, spare T) bool {
+	for n := range lists {
+		if !isUntouched(l[n], lists[n], spare) {
+			return false
+		}
+	}
+	behind := l[len(l) : len(lists)+4]
+	return len(l) == len(lists) && slices.EqualFunc(behind, slices.Repeat([][]T{{spare}}, 4), slices.Equal[[]T])
+}
+
 func fill[T any](l []T, with T) {
 	for i := range l {
 		l[i] = with

@@ -106,30 +106,15 @@ func TestMeetingPairsOfResultsAreNew(t *testing.T) {
 // checkTableCall makes one call with nothing behind the list of stars and behind each of them, and then with two different stars and rays behind.
 func checkTableCall(t *testing.T, stars [][]impl.Ray) {
 	t.Helper()
-	var clipped [][]impl.Ray
-	for _, l := range stars {
-		clipped = append(clipped, slices.Clip(slices.Clone(l)))
-	}
-	want, wantOK := impl.MeetTable(slices.Clip(clipped))
+	want, wantOK := impl.MeetTable(clippedLists(stars))
 	if !wantOK && len(want) > 0 {
 		t.Errorf("MeetTable%v fails with %v", stars, want)
 	}
 	for _, spare := range star(1, 20, 20, 3, -20, 19) {
-		var inner [][]impl.Ray
-		for _, l := range stars {
-			inner = append(inner, withSpare(l, spare))
-		}
-		l := withSpare(inner, []impl.Ray{spare})
+		l := withSpareLists(stars, spare)
 		checkTable(t, l, want, wantOK)
-		for n := range stars {
-			if !isUntouched(l[n], stars[n], spare) {
-				t.Errorf("MeetTable%v changes a star", stars)
-			}
-		}
-		for _, behind := range l[len(l) : len(l)+4] {
-			if !slices.Equal(behind, []impl.Ray{spare}) {
-				t.Errorf("MeetTable%v changes what is behind the list", stars)
-			}
+		if !areUntouched(l, stars, spare) {
+			t.Errorf("MeetTable%v changes its argument", stars)
 		}
 	}
 }

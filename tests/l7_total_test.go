@@ -1,6 +1,7 @@
 package tests
 
 import (
+	"fmt"
 	"slices"
 	"testing"
 
@@ -107,20 +108,15 @@ func TestCellsDoNotReadBehindTheList(t *testing.T) {
 	checkList(t, "NewtonPolygon", hull, ok, points(0, 0), true)
 }
 
-// checkNewLists makes one call twice and fills each list of one result, with all the room behind it, with a number of its own: no other list may change with it, and the argument neither.
-// The changes are two elements that are nowhere else. It tells how many lists there were.
-func checkNewLists[T comparable](t *testing.T, name string, l []T, changes [2]T, call func(l []T) ([][]int, bool)) int {
+// checkListsAreApart fills each list, with all the room behind it, with a number of its own: no other list may change with it. In the end all lists are replaced.
+func checkListsAreApart(t *testing.T, call string, result [][]int) {
 	t.Helper()
-	argument := withSpare(l, changes[0])
-	result, isResult := call(argument)
-	other, isOther := call(argument)
-	want, _ := call(slices.Clone(l))
 	lists := result[:cap(result)]
 	checkFilled := func() {
 		t.Helper()
 		for n, list := range result {
 			if !slices.Equal(list, repeated(len(list), -1-n)) {
-				t.Errorf("%s%v: two lists of the result share memory: %v", name, l, result)
+				t.Errorf("%s: two lists of the result share memory: %v", call, result)
 			}
 		}
 	}
@@ -134,6 +130,17 @@ func checkNewLists[T comparable](t *testing.T, name string, l []T, changes [2]T,
 	}
 	checkFilled()
 	fill(lists, []int{77})
+}
+
+// checkNewLists makes one call twice and changes all lists of one result: none of them may change with another one, and neither the argument nor the other result.
+// The changes are two elements that are nowhere else. It tells how many lists there were.
+func checkNewLists[T comparable](t *testing.T, name string, l []T, changes [2]T, call func(l []T) ([][]int, bool)) int {
+	t.Helper()
+	argument := withSpare(l, changes[0])
+	result, isResult := call(argument)
+	other, isOther := call(argument)
+	want, _ := call(slices.Clone(l))
+	checkListsAreApart(t, fmt.Sprint(name, l), result)
 	if !isUntouched(argument, l, changes[0]) {
 		t.Errorf("%s%v: the argument changes with the result", name, l)
 	}
